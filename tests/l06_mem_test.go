@@ -272,13 +272,14 @@ func TestRightMachinesAtTheEdges(t *testing.T) {
 	}
 }
 
-func TestWrongMachines(t *testing.T) {
-	wantRefused(t, impl.Machine{})
+// wrongFields: right machines but for one field.
+func wrongFields() []impl.Machine {
+	var list []impl.Machine
 	with := func(put func(*impl.Machine, int64), near ...int64) {
 		for _, n := range append(near, farNumbers...) {
 			m := filledMachine(4)
 			put(&m, n)
-			wantRefused(t, m)
+			list = append(list, m)
 		}
 	}
 	with(func(m *impl.Machine, n int64) { m.A = n }, -1, 256)
@@ -297,41 +298,48 @@ func TestWrongMachines(t *testing.T) {
 	with(func(m *impl.Machine, n int64) { m.Clock = n }, -1, 0, 499, 501, impl.MaxClock, impl.MaxClock+1)
 	with(func(m *impl.Machine, n int64) { m.Timer.Count = n }, -1, 0, 499, 501, impl.MaxClock, impl.MaxClock+1)
 	with(func(m *impl.Machine, n int64) { m.Clock, m.Timer.Count = n, n }, -1, impl.MaxClock+1)
+	return list
 }
 
-func TestMachinesWithWrongParts(t *testing.T) {
-	for _, size := range []int{0, 1, 62, 63, 65, 128, 1000} {
+// wrongParts: right machines but for their rom, Ram, Timer or Serial.
+func wrongParts() []impl.Machine {
+	var list []impl.Machine
+	with := func(put func(*impl.Machine)) {
 		m := filledMachine(4)
-		m.Ram = make([]int64, size)
-		wantRefused(t, m)
+		put(&m)
+		list = append(list, m)
 	}
-	m := filledMachine(4)
-	m.Ram = nil
-	wantRefused(t, m)
+	for _, size := range []int{0, 1, 62, 63, 65, 128, 1000} {
+		with(func(m *impl.Machine) { m.Ram = make([]int64, size) })
+	}
+	with(func(m *impl.Machine) { m.Ram = nil })
 	// What lies in the spare room behind is no part of the Ram, nor of the rom.
-	m.Ram = make([]int64, 63, 64)
-	wantRefused(t, m)
-	m = filledMachine(4)
-	m.Rom = m.Rom[:3]
-	wantRefused(t, m)
+	with(func(m *impl.Machine) { m.Ram = make([]int64, 63, 64) })
+	with(func(m *impl.Machine) { m.Rom = m.Rom[:3] })
 	for _, rom := range [][]int64{nil, {}, {25}, {0, 24}, {0, 26}, {0, 25 + 256}, {256, 25}, romFor(129)} {
-		m := filledMachine(4)
-		m.Rom = rom
-		wantRefused(t, m)
+		with(func(m *impl.Machine) { m.Rom = rom })
 	}
 	for place := range 128 {
-		m := filledMachine(128)
-		m.Rom[place] = (m.Rom[place] + 255) % 256
-		wantRefused(t, m)
+		with(func(m *impl.Machine) {
+			m.Rom = romFor(128)
+			m.Rom[place] = (m.Rom[place] + 255) % 256
+		})
 	}
 	for _, x := range wrongTimers() {
-		m := filledMachine(4)
-		m.Timer, m.Clock = x, x.Count
-		wantRefused(t, m)
+		with(func(m *impl.Machine) { m.Timer, m.Clock = x, x.Count })
 	}
 	for _, s := range wrongSerials() {
-		m := filledMachine(4)
-		m.Serial = s
+		with(func(m *impl.Machine) { m.Serial = s })
+	}
+	return list
+}
+
+func wrongMachines() []impl.Machine {
+	return append(append(wrongFields(), wrongParts()...), impl.Machine{})
+}
+
+func TestWrongMachines(t *testing.T) {
+	for _, m := range wrongMachines() {
 		wantRefused(t, m)
 	}
 }
@@ -620,26 +628,34 @@ func TestNewMachinesShareNothing(t *testing.T) {
 	}
 }
 
+// wantSharesNothing: what the call makes of m shares no memory with it, nor with what it makes another time; m stays, and the spare room behind it.
+func wantSharesNothing(t *testing.T, m impl.Machine, call func(impl.Machine) impl.Machine) {
+	t.Helper()
+	rom, wholeRom := withRoom(m.Rom)
+	ram, wholeRam := withRoom(m.Ram)
+	beforeRom, beforeRam := slices.Clone(wholeRom), slices.Clone(wholeRam)
+	m.Rom, m.Ram = rom, ram
+	first, second := call(m), call(m)
+	want := machineClone(second)
+	wantOwnMemory(t, first)
+	if !slices.Equal(wholeRom, beforeRom) || !slices.Equal(wholeRam, beforeRam) {
+		t.Fatalf("%+v: what was given is changed", m)
+	}
+	if !likeMachines(second, want) {
+		t.Fatalf("%+v: two answers share memory", m)
+	}
+	fill(wholeRom, -9)
+	fill(wholeRam, -9)
+	if !likeMachines(second, want) {
+		t.Fatalf("%+v: the answer shares memory with its argument", m)
+	}
+}
+
 func TestWrittenMachinesShareNothing(t *testing.T) {
 	for _, size := range []int{2, 64, 128} {
 		for place := range int64(256) {
 			for _, n := range []int64{0, 127, 129, 255} {
-				m := filledMachine(size)
-				rom, wholeRom := withRoom(m.Rom)
-				ram, wholeRam := withRoom(m.Ram)
-				beforeRom, beforeRam := slices.Clone(wholeRom), slices.Clone(wholeRam)
-				m.Rom, m.Ram = rom, ram
-				first, second := impl.WrittenAt(m, place, n), impl.WrittenAt(m, place, n)
-				want := machineClone(second)
-				wantOwnMemory(t, first)
-				if !slices.Equal(wholeRom, beforeRom) || !slices.Equal(wholeRam, beforeRam) {
-					t.Fatalf("%d at %d: what was given is changed", n, place)
-				}
-				fill(wholeRom, -9)
-				fill(wholeRam, -9)
-				if !likeMachines(second, want) {
-					t.Fatalf("%d at %d: the answer shares memory", n, place)
-				}
+				wantSharesNothing(t, filledMachine(size), func(m impl.Machine) impl.Machine { return impl.WrittenAt(m, place, n) })
 			}
 		}
 	}
