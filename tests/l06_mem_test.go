@@ -217,7 +217,8 @@ func TestNewMachinesOfManyRoms(t *testing.T) {
 	}
 }
 
-func TestNoMachineOfNoRom(t *testing.T) {
+// wrongRoms: too short, too long, with a wrong check, with what is no byte number.
+func wrongRoms() [][]int64 {
 	wrong := [][]int64{nil, {}, {25}, {0}, {1, 2}, {0, 24}, {0, 26}, {0, 25, 25}, {256, 25}, {-1, 24}, {231, 256}, {230, -1}, {-1, -1}, {0, math.MaxInt64}, {math.MinInt64, 25}}
 	wrong = append(wrong, romFor(129), romFor(1000))
 	for place := range 128 {
@@ -225,7 +226,11 @@ func TestNoMachineOfNoRom(t *testing.T) {
 		rom[place] = (rom[place] + 1) % 256
 		wrong = append(wrong, rom)
 	}
-	for _, rom := range wrong {
+	return wrong
+}
+
+func TestNoMachineOfNoRom(t *testing.T) {
+	for _, rom := range wrongRoms() {
 		if m, is := impl.NewMachine(rom); is || !likeMachines(m, impl.Machine{}) {
 			t.Fatalf("NewMachine of %v: got %+v %v, want the zero Machine and false", rom, m, is)
 		}
